@@ -762,6 +762,23 @@ func TestEvalModelGivesNewMemory(t *testing.T) {
 	}
 }
 
+// checkOwnLists writes into each list of m, and into the room behind it, to see whether two share memory.
+func checkOwnLists(t *testing.T, m impl.Model) {
+	t.Helper()
+	var lists [][]int
+	for _, l := range m.Layers {
+		lists = append(lists, l.Weights, l.Bias)
+	}
+	for i, own := range lists {
+		overwrite(own, 1000+i)
+	}
+	for i, own := range lists {
+		if !slices.Equal(own, same(len(own), 1000+i)) {
+			t.Fatalf("list %d of %v was written into through another", i, m)
+		}
+	}
+}
+
 // No two lists of one model that is answered share memory, though those of the arguments do.
 func TestListsOfAModelAreItsOwn(t *testing.T) {
 	list := []int{1, 2, 3, 4}
@@ -771,18 +788,7 @@ func TestListsOfAModelAreItsOwn(t *testing.T) {
 	loop := model(shape(1, 1, 1), one, two)
 	joined, ok := impl.JoinModels(loop, loop)
 	for _, got := range []impl.Model{cutOf(t, m, 0, 4), cutOf(t, m, 1, 4), cutOf(t, m, 2, 3), joined} {
-		var lists [][]int
-		for _, l := range got.Layers {
-			lists = append(lists, l.Weights, l.Bias)
-		}
-		for i, own := range lists {
-			overwrite(own, 1000+i)
-		}
-		for i, own := range lists {
-			if !slices.Equal(own, same(len(own), 1000+i)) {
-				t.Errorf("list %d of %v was written into through another", i, got)
-			}
-		}
+		checkOwnLists(t, got)
 	}
 	if !ok || !slices.Equal(list, []int{1, 2, 3, 4}) || !checkModel(t, m) {
 		t.Errorf("the lists of the argument were written into: %t, %v", ok, list)
