@@ -40,6 +40,20 @@ func swapped(m impl.Model, place int, l impl.Layer) impl.Model {
 
 func isZeroModel(m impl.Model) bool { return m.In == impl.Shape{} && len(m.Layers) == 0 }
 
+// wantProducts are those that a right layer makes; wantRun counts them as they are made.
+func wantProducts(s, then impl.Shape, l impl.Layer) int {
+	items := then.H * then.W * then.C
+	switch l.Kind {
+	case 0:
+		return items * s.H * s.W * s.C
+	case 1:
+		return items * l.Size * l.Size * s.C
+	case 2, 3:
+		return items * l.Size * l.Size
+	}
+	return s.H * s.W * s.C
+}
+
 // wantWalk is what the chapter says of a model's Shapes and costs; nothing when it is not right.
 func wantWalk(m impl.Model) ([]impl.Shape, []int) {
 	if len(m.Layers) < 1 || len(m.Layers) > 6 {
@@ -51,8 +65,7 @@ func wantWalk(m impl.Model) ([]impl.Shape, []int) {
 		if !ok {
 			return nil, nil
 		}
-		_, products := wantRun(some(shapes[i]), l)
-		shapes, costs = append(shapes, then), append(costs, 1+products/16)
+		shapes, costs = append(shapes, then), append(costs, 1+wantProducts(shapes[i], then, l)/16)
 	}
 	return shapes, costs
 }
