@@ -47,13 +47,16 @@ func wantTake(b []byte, at int) (int, int) {
 	return int(x), at + n
 }
 
-// wantSum cuts the sum only at the end.
+// wantSum cuts the sum only now and then, and at the end.
 func wantSum(b []byte) int {
-	sum := big.NewInt(1)
-	for _, x := range b {
-		sum.Mul(sum, wideInt(257)).Add(sum, wideInt(int(x)+1))
+	sum, times, modulo := big.NewInt(1), wideInt(257), wideInt(1000003)
+	for i, x := range b {
+		sum.Mul(sum, times).Add(sum, wideInt(int(x)+1))
+		if i%60 == 0 {
+			sum.Mod(sum, modulo)
+		}
 	}
-	return int(sum.Mod(sum, wideInt(1000003)).Int64())
+	return int(sum.Mod(sum, modulo).Int64())
 }
 
 func puts(numbers ...int) []byte {
